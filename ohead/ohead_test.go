@@ -286,7 +286,7 @@ func TestWords(t *testing.T) {
 	}
 }
 
-// TestAll: P8.1 and P8.3, against the model: all objects that may be, led back from their words, each at another address of a device.
+// TestAll: P8.1 and P8.3, against the model: all objects that may be, led back from their words, at all addresses of a device in turn.
 func TestAll(t *testing.T) {
 	for i, o := range all() {
 		at := i % 131072
